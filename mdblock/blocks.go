@@ -8,7 +8,7 @@ import (
 	"indenture/mdmark"
 )
 
-// What follows tells of a line, by the block that is open, what goes on with it.
+// What follows takes a line that goes on with the block that is open.
 
 // fenced takes a line of code between fences, or the fence that ends it.
 func (r *reader) fenced() next {
@@ -72,13 +72,13 @@ func (r *reader) begins() bool {
 	return head || fence || rule || r.kept < api.MaxStack && (r.isQuoted() || r.isItem())
 }
 
-// isItem tells whether an item stands there that may end a paragraph: words do, as a number at a line's beginning, or a lone sign.
+// isItem tells whether an item stands there that may end a paragraph: without words, or with a number that counts on, a sign may be its text.
 func (r *reader) isItem() bool {
 	m, is := mdmark.Item(r.line, r.stand)
 	return is && m.Last > m.To && (m.Count == 1 || strings.IndexByte(".)", m.Char) < 0)
 }
 
-// What follows tells of what opens whether it stands there, and takes it, if it does.
+// What follows takes what opens, if it stands there.
 
 // code takes code that is indented.
 func (r *reader) code() next {
