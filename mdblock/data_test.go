@@ -51,6 +51,14 @@ func (l laid) state(m model) api.State {
 	return m.state()
 }
 
+// quoted is where one comes to on a line that begins with ahead, and has nothing but blanks behind: behind the last quote, since items take no columns there.
+func (l laid) quoted(ahead string) int {
+	if !slices.Contains(l.signs, ">") {
+		return 0
+	}
+	return strings.LastIndexByte(ahead, '>') + len("> ")
+}
+
 // quotes are where the marks of quotes stand in what a line begins with.
 func quotes(ahead string) []api.Event {
 	var ev []api.Event
@@ -123,7 +131,7 @@ func anyRaw(seed *uint64) string {
 // P19.10: the lines between two fences are told as they stand, whatever they hold.
 func TestAnyFence(t *testing.T) {
 	seed := uint64(10)
-	ends := 0
+	ends, blanks := 0, 0
 	for range 20000 {
 		l := anyFrames(&seed, 5)
 		sign := "~`"[turn(&seed, 2)]
@@ -145,9 +153,14 @@ func TestAnyFence(t *testing.T) {
 				own = "x" + own
 			}
 			line := ahead + strings.Repeat(" ", shift) + own
+			from := len(line) - len(own)
+			if strings.Trim(own, " \t") == "" {
+				from = shift + l.quoted(ahead)
+				blanks++
+			}
 			want := quotes(ahead)
-			if own != "" {
-				want = append(want, leaf(api.MdRaw, len(line)-len(own), len(line)))
+			if from < len(line) {
+				want = append(want, leaf(api.MdRaw, from, len(line)))
 			}
 			if ev, behind := mdblock.Scan(s, line+"\n"); !slices.Equal(ev, want) || behind != s {
 				t.Fatalf("%q from %v tells %s, not %s; behind it is %v", line, s, told(ev), told(want), behind)
@@ -163,8 +176,8 @@ func TestAnyFence(t *testing.T) {
 		}
 		ends++
 	}
-	if ends < 20000 {
-		t.Errorf("%d fences end", ends)
+	if ends < 20000 || blanks < 5000 {
+		t.Errorf("%d fences end, %d lines have nothing but blanks", ends, blanks)
 	}
 }
 

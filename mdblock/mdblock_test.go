@@ -259,8 +259,9 @@ func TestFences(t *testing.T) {
 		row{"> - ~~~", "open quote 0, mark 0 1, open tight 2, open item 2, mark 2 3, open fence 4, mark 4 7", "> -2 ~3"},
 		row{">    a", "mark 0 1, raw 4 6", "> -2 ~3"},
 		row{">", "mark 0 1", "> -2 ~3"},
-		row{">  ", "mark 0 1", "> -2 ~3"},
-		row{">     ", "mark 0 1, raw 4 6", "> -2 ~3"},
+		row{"> ", "mark 0 1", "> -2 ~3"},
+		row{">  ", "mark 0 1, raw 2 3", "> -2 ~3"},
+		row{">     ", "mark 0 1, raw 2 6", "> -2 ~3"},
 		row{">\t\ta", "mark 0 1, raw 2 4", "> -2 ~3"},
 		row{">   ~~~", "mark 0 1, mark 4 7, close 7", "> -2"},
 	)
@@ -281,15 +282,35 @@ func TestFences(t *testing.T) {
 	holdEnds(t, "`5", "``` a", "raw 0 5", "`5")
 }
 
-// P19.2: in an item, a line of blanks that does not reach its column is taken all the same: nothing of it is code.
+// P19.1, P19.2, P19.10: a line on which nothing stands goes on with an item, whatever blanks it has: none of them is taken for the item's column, so that between fences they are told as they stand.
 func TestFencesWithinItems(t *testing.T) {
-	holdEnds(t, ".5 ~3", "   ", "", ".5 ~3")
-	holdEnds(t, ".5 ~3", "     ", "", ".5 ~3")
-	holdEnds(t, ".5 ~3", "      ", "raw 5 6", ".5 ~3")
-	holdEnds(t, ".5 ~3:1", "      ", "", ".5 ~3:1")
-	holdEnds(t, ".5 ~3", "\t", "", ".5 ~3")
-	holdEnds(t, ".5 ~3", "\t\t", "raw 1 2", ".5 ~3")
-	holdEnds(t, "-2 -2 ~3", "   ", "", "-2 -2 ~3")
+	holdEnds(t, ")2 `3", " ", "raw 0 1", ")2 `3")
+	holdEnds(t, ")2 )2 `3", " ", "raw 0 1", ")2 )2 `3")
+	holdEnds(t, ")4 )2 `3", "    ", "raw 0 4", ")4 )2 `3")
+	holdEnds(t, ")2 `3:1", "   ", "raw 1 3", ")2 `3:1")
+	holdEnds(t, ")2 `3", "   a", "raw 2 4", ")2 `3")
+	// As wide as its column is, less, and more.
+	holdEnds(t, ".5 ~3", "", "", ".5 ~3")
+	holdEnds(t, ".5 ~3", "    ", "raw 0 4", ".5 ~3")
+	holdEnds(t, ".5 ~3", "     ", "raw 0 5", ".5 ~3")
+	holdEnds(t, ".5 ~3", "      ", "raw 0 6", ".5 ~3")
+	holdEnds(t, ".5 ~3", "      a", "raw 5 7", ".5 ~3")
+	holdEnds(t, ".5 ~3", "\t", "raw 0 1", ".5 ~3")
+	holdEnds(t, ".5 ~3", "\t\t", "raw 0 2", ".5 ~3")
+	holdEnds(t, ".5 ~3", "\t\ta", "raw 1 3", ".5 ~3")
+	// The fence's own indentation is taken away.
+	holdEnds(t, ".5 ~3:3", "  ", "", ".5 ~3:3")
+	holdEnds(t, ".5 ~3:3", "   ", "", ".5 ~3:3")
+	holdEnds(t, ".5 ~3:3", "    ", "raw 3 4", ".5 ~3:3")
+	holdEnds(t, ".5 ~3:3", "        ", "raw 3 8", ".5 ~3:3")
+	holdEnds(t, ".5 ~3:3", "\t", "raw 0 1", ".5 ~3:3")
+	// Where a quote's mark stands, the items ahead of it take their columns, and the quote its blank.
+	holdEnds(t, "-2 > -2 ~3", "  >", "mark 2 3", "-2 > -2 ~3")
+	holdEnds(t, "-2 > -2 ~3", "  >   ", "mark 2 3, raw 4 6", "-2 > -2 ~3")
+	holdEnds(t, "-2 > -2 ~3:1", "  >   ", "mark 2 3, raw 5 6", "-2 > -2 ~3:1")
+	holdEnds(t, "-2 > -2 ~3", "  >   a", "mark 2 3, raw 6 7", "-2 > -2 ~3")
+	holdEnds(t, "-2 > -2 ~3", " > ", "close 0, close 0, close 0, close 0, close 0, close 0, open quote 1, mark 1 2", ">")
+	holdEnds(t, "-2 > ~3", "    ", "close 0, close 0", "-2B")
 }
 
 // P19.3: code that is indented.

@@ -202,9 +202,9 @@ func scan(s api.State, line string) ([]api.Event, api.State) {
 		if l.sign == '>' && v.isQuote() {
 			marks = append(marks, leaf(api.MdMark, v.over(), v.over()+1))
 			v.quote()
-		} else if l.sign != '>' && (v.empty() || v.wide() >= l.col) {
+		} else if l.sign != '>' && !v.empty() && v.wide() >= l.col {
 			v.take(l.col)
-		} else {
+		} else if l.sign == '>' || !v.empty() {
 			break
 		}
 	}

@@ -70,7 +70,11 @@ func (r *reader) goesOn(f api.Frame) bool {
 		r.quote()
 		return true
 	}
-	if r.stands() && r.wide < f.Col {
+	if !r.stands() {
+		// None of these blanks is the item's: between fences they are told as they stand.
+		return true
+	}
+	if r.wide < f.Col {
 		return false
 	}
 	r.take(f.Col)
